@@ -10,6 +10,7 @@ import (
 	"testing"
 
 	"rejoinder/api"
+	"rejoinder/both"
 	"rejoinder/canon"
 	"rejoinder/compile"
 	"rejoinder/guard"
@@ -989,6 +990,10 @@ func TestCountAndCountOfTheOthers(t *testing.T) {
 		}
 		n = a.Props
 		others := not(a)
+		told, refused := both.Not(a)
+		if refused != api.OK {
+			t.Fatal(toldAuto(a), refused)
+		}
 		for length := 1; length <= 64; length++ {
 			if n*length >= 64 {
 				break
@@ -998,8 +1003,10 @@ func TestCountAndCountOfTheOthers(t *testing.T) {
 			if one+other != 1<<(n*length) || one > 1<<(n*length) || err != api.OK || errToo != api.OK {
 				t.Fatal(toldAuto(a), length, one, other, err, errToo)
 			}
+			counts(t, told, length, other)
 		}
 		counts(t, others, 0, 0)
+		counts(t, told, 0, 0)
 	}
 }
 
